@@ -8,20 +8,8 @@ import (
 	"testing"
 
 	"backstay/api"
+	"backstay/mixed"
 )
-
-// mixed: bytes of all values, others for each seed, the same at each run.
-func mixed(seed, count int) []byte {
-	w := uint64(seed)*0x9e3779b97f4a7c15 + 1
-	list := make([]byte, count)
-	for i := range list {
-		w ^= w << 13
-		w ^= w >> 7
-		w ^= w << 17
-		list[i] = byte(w >> 32)
-	}
-	return list
-}
 
 // words: remainders at the edges, each bit alone, and many others.
 func words() []uint32 {
@@ -29,7 +17,7 @@ func words() []uint32 {
 	for i := range 32 {
 		list = append(list, 1<<i)
 	}
-	more := mixed(77, 400)
+	more := mixed.Bytes(77, 400)
 	for i := 0; i < len(more); i += 4 {
 		list = append(list, uint32(more[i])<<24|uint32(more[i+1])<<16|uint32(more[i+2])<<8|uint32(more[i+3]))
 	}
@@ -89,7 +77,7 @@ func TestSum(t *testing.T) {
 		t.Errorf("Sum(nil): %x", got)
 	}
 	for n := range 600 {
-		data := mixed(n, n)
+		data := mixed.Bytes(n, n)
 		if got, want := table.Sum(data), crc32.ChecksumIEEE(data); got != want {
 			t.Fatalf("Sum of %d bytes: %x, not %x", n, got, want)
 		}
@@ -113,7 +101,7 @@ func TestSumOfEachByte(t *testing.T) {
 func TestMore(t *testing.T) {
 	table := New()
 	for i, sum := range words() {
-		data := mixed(i, i%40)
+		data := mixed.Bytes(i, i%40)
 		rest := ^sum
 		for _, b := range data {
 			rest = Step(rest, b)
@@ -130,7 +118,7 @@ func TestMore(t *testing.T) {
 // TestMoreGoesOn: in pieces the sum is the same as at once.
 func TestMoreGoesOn(t *testing.T) {
 	table := New()
-	data := mixed(5, 100)
+	data := mixed.Bytes(5, 100)
 	want := crc32.ChecksumIEEE(data)
 	for cut := range len(data) + 1 {
 		if got := table.More(table.Sum(data[:cut]), data[cut:]); got != want {
@@ -160,7 +148,7 @@ func TestSeal(t *testing.T) {
 func TestOpenOfSeal(t *testing.T) {
 	table := New()
 	for n := range 300 {
-		data := mixed(n, n)
+		data := mixed.Bytes(n, n)
 		got, e := table.Open(table.Seal(data))
 		if e != api.OK || !bytes.Equal(got, data) {
 			t.Fatalf("Open of Seal(%v): %v, %d", data, got, e)
@@ -207,7 +195,7 @@ func TestOpenRefuses(t *testing.T) {
 func TestOpenOfAny(t *testing.T) {
 	table := New()
 	for i := range 3000 {
-		data := mixed(i, i%30)
+		data := mixed.Bytes(i, i%30)
 		if i%3 == 0 && len(data) > 4 {
 			data = binarySeal(data[4:])
 		}
@@ -250,7 +238,7 @@ func TestOpenOfTurned(t *testing.T) {
 	table := New()
 	patterns := words()
 	for _, n := range []int{0, 1, 2, 3, 4, 5, 13, 33} {
-		sealed := table.Seal(mixed(n, n))
+		sealed := table.Seal(mixed.Bytes(n, n))
 		for from := range 8 * len(sealed) {
 			for _, p := range patterns {
 				data := turn(sealed, from, p|1)
@@ -307,7 +295,7 @@ func TestShiftApart(t *testing.T) {
 func TestJoinOfPieces(t *testing.T) {
 	table := New()
 	for _, n := range []int{0, 1, 2, 9, 64, 300} {
-		data := mixed(n, n)
+		data := mixed.Bytes(n, n)
 		want := table.Sum(data)
 		for cut := range n + 1 {
 			a, b := table.Sum(data[:cut]), table.Sum(data[cut:])
@@ -316,7 +304,7 @@ func TestJoinOfPieces(t *testing.T) {
 			}
 		}
 	}
-	long := mixed(3, 1<<20+77)
+	long := mixed.Bytes(3, 1<<20+77)
 	if got := Join(table.Sum(long[:9]), table.Sum(long[9:]), len(long)-9); got != crc32.ChecksumIEEE(long) {
 		t.Errorf("%d bytes: %x", len(long), got)
 	}
@@ -370,7 +358,7 @@ func TestJoinOfMany(t *testing.T) {
 func TestLeavesArgument(t *testing.T) {
 	table := New()
 	for _, used := range []int{0, 1, 5, 24, 28, 32} {
-		room := table.Seal(mixed(used, 20))
+		room := table.Seal(mixed.Bytes(used, 20))
 		room = append(room, 0xee, 0xee, 0xee, 0xee, 0xee, 0xee, 0xee, 0xee)
 		want := slices.Clone(room)
 		table.Sum(room[:used])
@@ -386,7 +374,7 @@ func TestLeavesArgument(t *testing.T) {
 // TestAnswersApart: what is answered shares nothing with the argument, nor with another answer.
 func TestAnswersApart(t *testing.T) {
 	table := New()
-	data := append(make([]byte, 0, 64), mixed(1, 12)...)
+	data := append(make([]byte, 0, 64), mixed.Bytes(1, 12)...)
 	want := binarySeal(data)
 	for name, answer := range map[string]func() []byte{
 		"Seal": func() []byte { return table.Seal(data) },
@@ -417,7 +405,7 @@ func TestAnswersApart(t *testing.T) {
 // TestArgumentGoes: what was answered stays as it is when the argument is changed behind it.
 func TestArgumentGoes(t *testing.T) {
 	table := New()
-	data := mixed(8, 12)
+	data := mixed.Bytes(8, 12)
 	want := slices.Clone(data)
 	sealed := table.Seal(data)
 	clear(data)
@@ -435,9 +423,9 @@ func TestArgumentGoes(t *testing.T) {
 func TestTablesAreTheSame(t *testing.T) {
 	used := New()
 	for i := range 200 {
-		used.Open(mixed(i, i%9))
-		used.More(uint32(i), mixed(i, i))
-		data := mixed(i+1, 40)
+		used.Open(mixed.Bytes(i, i%9))
+		used.More(uint32(i), mixed.Bytes(i, i))
+		data := mixed.Bytes(i+1, 40)
 		if got, want := used.Sum(data), New().Sum(data); got != want {
 			t.Fatalf("behind %d calls: %x, not %x", i, got, want)
 		}

@@ -7,6 +7,7 @@ import (
 	"testing"
 
 	"backstay/api"
+	"backstay/mixed"
 )
 
 // product: as the document says it: polynomials over the numbers modulo 2, and what is left of their product modulo x^8 + x^4 + x^3 + x^2 + 1.
@@ -49,19 +50,6 @@ func power(a byte, n int) byte {
 		a = product(a, a)
 	}
 	return out
-}
-
-// mixed: bytes of all values, others for each seed, the same at each run.
-func mixed(seed, count int) []byte {
-	w := uint64(seed)*0x9e3779b97f4a7c15 + 1
-	list := make([]byte, count)
-	for i := range list {
-		w ^= w << 13
-		w ^= w >> 7
-		w ^= w << 17
-		list[i] = byte(w >> 32)
-	}
-	return list
 }
 
 // far: numbers at the edges of what an int holds, and about the places where the powers come round.
@@ -333,7 +321,7 @@ func TestScale(t *testing.T) {
 	}
 	for a := range 256 {
 		for _, n := range []int{1, 2, 7, 8, 9, 256, 1200, 3001} {
-			data := mixed(a, n)
+			data := mixed.Bytes(a, n)
 			got := f.Scale(byte(a), data)
 			if len(got) != n {
 				t.Fatalf("Scale(%d, %d bytes): %d", a, n, len(got))
@@ -374,7 +362,7 @@ func TestMixOfAny(t *testing.T) {
 	for a := range 256 {
 		for _, n := range sizes {
 			for _, m := range sizes {
-				was, data := mixed(a+1, n), mixed(a+2, m)
+				was, data := mixed.Bytes(a+1, n), mixed.Bytes(a+2, m)
 				into := slices.Clone(was)
 				f.Mix(into, byte(a), data)
 				for i, got := range into {
@@ -394,7 +382,7 @@ func TestMixOfAny(t *testing.T) {
 // TestMixTwice: what was added twice is gone.
 func TestMixTwice(t *testing.T) {
 	f := New()
-	was, data := mixed(1, 90), mixed(2, 80)
+	was, data := mixed.Bytes(1, 90), mixed.Bytes(2, 80)
 	into := slices.Clone(was)
 	f.Mix(into, 33, data)
 	f.Mix(into, 33, data)
@@ -407,7 +395,7 @@ func TestMixTwice(t *testing.T) {
 func TestMixWithin(t *testing.T) {
 	f := New()
 	for _, c := range []struct{ into, data int }{{0, 0}, {0, 1}, {1, 0}, {0, 5}, {5, 0}, {3, 39}, {39, 3}} {
-		list := mixed(c.into, 40)
+		list := mixed.Bytes(c.into, 40)
 		was := slices.Clone(list)
 		f.Mix(list[c.into:], 7, list[c.data:])
 		for i, got := range list {
@@ -437,7 +425,7 @@ func TestDot(t *testing.T) {
 	}
 	for n := range 70 {
 		for m := range 70 {
-			a, b := mixed(n, n), mixed(m+100, m)
+			a, b := mixed.Bytes(n, n), mixed.Bytes(m+100, m)
 			var want byte
 			for i := range min(n, m) {
 				want ^= product(a[i], b[i])
@@ -453,7 +441,7 @@ func TestDot(t *testing.T) {
 func TestLeavesArguments(t *testing.T) {
 	f := New()
 	for _, used := range []int{0, 1, 5, 8, 30} {
-		data, into, other := mixed(used, 40), mixed(used+1, 40), mixed(used+2, 40)
+		data, into, other := mixed.Bytes(used, 40), mixed.Bytes(used+1, 40), mixed.Bytes(used+2, 40)
 		wantData, wantInto, wantOther := slices.Clone(data), slices.Clone(into), slices.Clone(other)
 		f.Scale(9, data[:used])
 		f.Dot(data[:used], other[:used+3])
@@ -477,7 +465,7 @@ func TestLeavesArguments(t *testing.T) {
 func TestAnswersApart(t *testing.T) {
 	f := New()
 	for _, a := range []byte{0, 1, 2, 255} {
-		data := mixed(3, 20)
+		data := mixed.Bytes(3, 20)
 		first, second := f.Scale(a, data), f.Scale(a, data)
 		kept, was := slices.Clone(second), slices.Clone(data)
 		for i := range first {
@@ -509,7 +497,7 @@ func TestTablesAreTheSame(t *testing.T) {
 		used.Div(byte(i), 0)
 		used.Pow(0, -i-1)
 		used.Exp(-i * 1000)
-		used.Mix(mixed(i, i), byte(i), used.Scale(byte(i), mixed(i, i)))
+		used.Mix(mixed.Bytes(i, i), byte(i), used.Scale(byte(i), mixed.Bytes(i, i)))
 	}
 	if *used != *New() {
 		t.Errorf("used tables are others than new ones")

@@ -8,23 +8,13 @@ import (
 
 	"backstay/api"
 	"backstay/gf"
+	"backstay/mixed"
 )
 
-// mixed: so many bytes, of all values, others for each seed.
-func mixed(seed, count int) []byte {
-	w := uint64(seed)*0x9e3779b97f4a7c15 + 1
-	list := make([]byte, count)
-	for i := range list {
-		w ^= w << 13
-		w ^= w >> 7
-		w ^= w << 17
-		list[i] = byte(w * 0x2545f4914f6cdd1d >> 56) // without the product the rows of a great matrix would be sums of one another
-	}
-	return list
-}
-
 // mixedMatrix: one of that size, another one for each seed.
-func mixedMatrix(seed, rows, cols int) Matrix { return Matrix{rows, cols, mixed(seed, rows*cols)} }
+func mixedMatrix(seed, rows, cols int) Matrix {
+	return Matrix{rows, cols, mixed.Bytes(seed, rows*cols)}
+}
 
 // at: the element in a row and column.
 func at(m Matrix, i, k int) byte { return m.Data[i*m.Cols+k] }
@@ -424,7 +414,7 @@ func TestPowersInverted(t *testing.T) {
 
 // unlike: the numbers below n, in an order that is another one for each seed.
 func unlike(seed, n int) []int {
-	by := mixed(seed, n*2)
+	by := mixed.Bytes(seed, n*2)
 	list := make([]int, n)
 	for i := range list {
 		list[i] = i
@@ -479,7 +469,7 @@ func TestApplyIsMul(t *testing.T) {
 			t.Errorf("of %v: %d", c, e)
 		}
 	}
-	long := mixed(3, 5000)
+	long := mixed.Bytes(3, 5000)
 	got, e := Apply(f, Matrix{2, 2, []byte{0, 3, 1, 0}}, long, long)
 	if e != api.OK || len(got) != 2 || !bytes.Equal(got[0], f.Scale(3, long)) || !bytes.Equal(got[1], long) {
 		t.Errorf("of long columns, both one: %d", e)
@@ -515,13 +505,13 @@ func pairs() [][2]Matrix {
 func columnsFor(m Matrix) [][]byte {
 	var list [][]byte
 	for i := range m.Cols {
-		list = append(list, mixed(i+7, 3))
+		list = append(list, mixed.Bytes(i+7, 3))
 	}
 	return list
 }
 
 // spare: the same list with room behind it, in which something stands.
-func spare(list []byte) []byte { return append(slices.Clone(list), mixed(99, 20)...)[:len(list)] }
+func spare(list []byte) []byte { return append(slices.Clone(list), mixed.Bytes(99, 20)...)[:len(list)] }
 
 // TestLeavesArguments: neither the lists nor their spare room are changed.
 func TestLeavesArguments(t *testing.T) {
@@ -549,7 +539,7 @@ func TestLeavesArguments(t *testing.T) {
 			}
 		}
 		for i, column := range columns {
-			if was := spare(mixed(i+7, 3)); !bytes.Equal(column[:23], was[:23]) || !bytes.Equal(room[i], was) {
+			if was := spare(mixed.Bytes(i+7, 3)); !bytes.Equal(column[:23], was[:23]) || !bytes.Equal(room[i], was) {
 				t.Errorf("%v, %v: the column %d is changed", c[0], c[1], i)
 			}
 		}

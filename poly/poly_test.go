@@ -7,6 +7,7 @@ import (
 
 	"backstay/api"
 	"backstay/gf"
+	"backstay/mixed"
 )
 
 // all: each list of at most so many of these coefficients, those with noughts at their end too.
@@ -27,14 +28,7 @@ func all(most int, coefficients ...byte) [][]byte {
 
 // long: so many coefficients, of all values, others for each seed; the last one isn't 0.
 func long(seed, count int) []byte {
-	w := uint64(seed)*0x9e3779b97f4a7c15 + 1
-	p := make([]byte, count)
-	for i := range p {
-		w ^= w << 13
-		w ^= w >> 7
-		w ^= w << 17
-		p[i] = byte(w >> 32)
-	}
+	p := mixed.Bytes(seed, count)
 	if count > 0 {
 		p[count-1] |= 1
 	}

@@ -9,27 +9,15 @@ import (
 	"backstay/api"
 	"backstay/gf"
 	"backstay/matrix"
+	"backstay/mixed"
 	"backstay/poly"
 )
-
-// mixed: so many bytes, of all values, others for each seed.
-func mixed(seed, count int) []byte {
-	w := uint64(seed)*0x9e3779b97f4a7c15 + 1
-	list := make([]byte, count)
-	for i := range list {
-		w ^= w << 13
-		w ^= w >> 7
-		w ^= w << 17
-		list[i] = byte(w * 0x2545f4914f6cdd1d >> 56)
-	}
-	return list
-}
 
 // lists: so many, equally long, others for each seed.
 func lists(seed, count, length int) [][]byte {
 	out := make([][]byte, count)
 	for i := range out {
-		out[i] = mixed(seed*1000+i, length)
+		out[i] = mixed.Bytes(seed*1000+i, length)
 	}
 	return out
 }
@@ -40,7 +28,7 @@ func order(seed, n int) []int {
 	for i := range list {
 		list[i] = i
 	}
-	for i, b := range mixed(seed, n) {
+	for i, b := range mixed.Bytes(seed, n) {
 		k := int(b) % (i + 1)
 		list[i], list[k] = list[k], list[i]
 	}
@@ -214,7 +202,7 @@ func TestEncodeWrong(t *testing.T) {
 			{nil, api.ErrShards}, {lists(1, 2, 4), api.ErrShards}, {lists(1, 4, 4), api.ErrShards}, {lists(1, 3+m+1, 4), api.ErrShards}, {lists(1, 300, 1), api.ErrShards},
 			{[][]byte{{1}, {2, 3}}, api.ErrShards}, {lists(1, 4, 1201), api.ErrShards}, {[][]byte{nil, {1}, {2}, {3, 4}}, api.ErrShards},
 			{[][]byte{{1}, {2}, {3, 4}}, api.ErrLength}, {[][]byte{{1, 2}, {2}, {3, 4}}, api.ErrLength}, {[][]byte{{1}, {3, 4}, {3, 4}}, api.ErrLength}, {[][]byte{{1}, {2}, nil}, api.ErrLength}, {[][]byte{nil, {2}, {3}}, api.ErrLength},
-			{lists(1, 3, 1201), api.ErrLength}, {lists(1, 3, 5000), api.ErrLength}, {[][]byte{mixed(1, 1200), mixed(2, 1201), mixed(3, 1200)}, api.ErrLength},
+			{lists(1, 3, 1201), api.ErrLength}, {lists(1, 3, 5000), api.ErrLength}, {[][]byte{mixed.Bytes(1, 1200), mixed.Bytes(2, 1201), mixed.Bytes(3, 1200)}, api.ErrLength},
 		} {
 			if got, e := c.Encode(w.data...); e != w.e || len(got) != 0 {
 				t.Errorf("Encode, parity %d, of %d: %v, %d, not %d", m, len(w.data), got, e, w.e)
@@ -286,7 +274,7 @@ func TestListWrong(t *testing.T) {
 	for _, m := range []int{0, 1, 3} {
 		c := code(t, f, 3, m)
 		good := encoded(t, c, lists(m, 3, 4))
-		of := func(index, length int) api.Shard { return api.Shard{Index: index, Data: mixed(index, length)} }
+		of := func(index, length int) api.Shard { return api.Shard{Index: index, Data: mixed.Bytes(index, length)} }
 		for _, i := range []int{-1, -2, 3 + m, 4 + m, 255, 256, 1 << 32, 1<<32 + 1, math.MaxInt, math.MinInt} {
 			for _, length := range []int{0, 4, 9, 1201} {
 				refused(t, c, api.ErrIndex, of(i, length))
@@ -365,7 +353,7 @@ func TestFits(t *testing.T) {
 		for seed := range 20 {
 			var list []api.Shard
 			for i, n := range order(seed, k+m)[:k] {
-				list = append(list, api.Shard{Index: n, Data: mixed(seed*100+i, 6)})
+				list = append(list, api.Shard{Index: n, Data: mixed.Bytes(seed*100+i, 6)})
 			}
 			if got, e := c.Fits(list...); e != api.OK || !got {
 				t.Fatalf("Fits, %d and %d, of any %d: %v, %d", k, m, k, got, e)
