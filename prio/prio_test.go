@@ -1,32 +1,29 @@
 package prio
 
 import (
-	"iter"
 	"math"
 	"slices"
 	"testing"
 
 	"backstay/api"
 	"backstay/mixed"
+	"backstay/told"
 )
 
-// told is a rank and its item.
-type told struct {
-	rank int
-	v    string
-}
+// ranked is a rank and its item.
+type ranked = told.Pair[int, string]
 
 // plain keeps items as they were pushed, and looks through all of them for each answer.
 type plain struct {
 	room  int
-	items []told
+	items []ranked
 }
 
 // first: the place of the item that comes ahead of all others; -1, if there is none.
 func (p *plain) first() int {
 	at := -1
 	for i, one := range p.items {
-		if at < 0 || one.rank < p.items[at].rank {
+		if at < 0 || one.Key < p.items[at].Key {
 			at = i
 		}
 	}
@@ -37,7 +34,7 @@ func (p *plain) first() int {
 func (p *plain) last() int {
 	at := 0
 	for i, one := range p.items {
-		if one.rank >= p.items[at].rank {
+		if one.Key >= p.items[at].Key {
 			at = i
 		}
 	}
@@ -45,7 +42,7 @@ func (p *plain) last() int {
 }
 
 // out: the item at a place goes.
-func (p *plain) out(at int) told {
+func (p *plain) out(at int) ranked {
 	one := p.items[at]
 	p.items = append(slices.Clone(p.items[:at]), p.items[at+1:]...)
 	return one
@@ -53,11 +50,11 @@ func (p *plain) out(at int) told {
 
 // push: what Push should tell.
 func (p *plain) push(rank int, v string) (string, bool) {
-	p.items = append(p.items, told{rank, v})
+	p.items = append(p.items, ranked{Key: rank, Value: v})
 	if len(p.items) <= p.room {
 		return "", false
 	}
-	return p.out(p.last()).v, true
+	return p.out(p.last()).Value, true
 }
 
 // peek: what Peek should tell.
@@ -66,7 +63,7 @@ func (p *plain) peek() (string, int, bool) {
 	if at < 0 {
 		return "", 0, false
 	}
-	return p.items[at].v, p.items[at].rank, true
+	return p.items[at].Value, p.items[at].Key, true
 }
 
 // pop: what Pop should tell.
@@ -80,9 +77,9 @@ func (p *plain) pop() (string, int, bool) {
 
 // filter: what Filter should tell.
 func (p *plain) filter(keep func(string) bool) int {
-	var stay []told
+	var stay []ranked
 	for _, one := range p.items {
-		if keep(one.v) {
+		if keep(one.Value) {
 			stay = append(stay, one)
 		}
 	}
@@ -95,24 +92,15 @@ func (p *plain) filter(keep func(string) bool) int {
 func (p *plain) clone() *plain { return &plain{p.room, slices.Clone(p.items)} }
 
 // all: what All should go over.
-func (p *plain) all() []told {
-	var list []told
+func (p *plain) all() []ranked {
+	var list []ranked
 	for c := p.clone(); ; {
 		v, rank, ok := c.pop()
 		if !ok {
 			return list
 		}
-		list = append(list, told{rank, v})
+		list = append(list, ranked{Key: rank, Value: v})
 	}
-}
-
-// gather: what is gone over.
-func gather(over iter.Seq2[int, string]) []told {
-	var list []told
-	for rank, v := range over {
-		list = append(list, told{rank, v})
-	}
-	return list
 }
 
 // pair is a queue, and what it should be.
@@ -141,7 +129,7 @@ func (p pair) asked(t *testing.T) {
 	if wv, wr, wok := p.plain.peek(); v != wv || rank != wr || ok != wok {
 		t.Fatalf("Peek: %q, %d, %t, not %q, %d, %t", v, rank, ok, wv, wr, wok)
 	}
-	if got, want := gather(p.All()), p.plain.all(); !slices.Equal(got, want) {
+	if got, want := told.All(p.All()), p.plain.all(); !slices.Equal(got, want) {
 		t.Fatalf("All: %v, not %v", got, want)
 	}
 	if p.Len() != len(p.plain.items) {
@@ -182,7 +170,7 @@ func (p pair) filter(t *testing.T, keep func(string) bool) {
 	}
 	var items []string
 	for _, one := range want {
-		items = append(items, one.v)
+		items = append(items, one.Value)
 	}
 	slices.Sort(items)
 	slices.Sort(times)
@@ -415,7 +403,7 @@ func TestFilterPushes(t *testing.T) {
 		{"Pop", func(p pair) { p.Pop() }, 0, nil},
 		{"Filter", func(p pair) { p.Filter(func(v string) bool { return v != word(2) }) }, 3, nil},
 		{"Pop and Push", func(p pair) { p.Pop(); p.Push(0, "x") }, 3, []string{"x"}},
-		{"All", func(p pair) { gather(p.All()) }, 4, nil},
+		{"All", func(p pair) { told.All(p.All()) }, 4, nil},
 		{"Clone", func(p pair) { p.Clone().Pop() }, 4, nil},
 	} {
 		p := filled(t, 6, 2, 1, 2, 1)
@@ -450,11 +438,11 @@ func TestAllOver(t *testing.T) {
 		func() { p.filter(t, func(string) bool { return false }) },
 	} {
 		act()
-		if got := gather(all); !slices.Equal(got, want) {
+		if got := told.All(all); !slices.Equal(got, want) {
 			t.Errorf("%v, not %v", got, want)
 		}
 	}
-	if got := gather(p.All()); len(got) != 0 {
+	if got := told.All(p.All()); len(got) != 0 {
 		t.Errorf("of nothing: %v", got)
 	}
 }
@@ -482,9 +470,9 @@ func TestAllEnds(t *testing.T) {
 		func() { p.Filter(func(string) bool { return false }) },
 	} {
 		p = filled(t, 4, 3, 1, 2, 1)
-		var got []told
+		var got []ranked
 		for rank, v := range p.All() {
-			got = append(got, told{rank, v})
+			got = append(got, ranked{Key: rank, Value: v})
 			act()
 		}
 		if !slices.Equal(got, want) {

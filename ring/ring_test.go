@@ -1,13 +1,13 @@
 package ring
 
 import (
-	"iter"
 	"math"
 	"slices"
 	"testing"
 
 	"backstay/api"
 	"backstay/mixed"
+	"backstay/told"
 )
 
 // plain keeps entries in a map, and goes through all numbers that there might be.
@@ -96,17 +96,14 @@ func (p *plain) clone() *plain {
 	return &c
 }
 
-// told is a number and its entry.
-type told struct {
-	n int
-	v string
-}
+// numbered is a number and its entry.
+type numbered = told.Pair[int, string]
 
 // all: what All should go over.
-func (p *plain) all() []told {
-	var list []told
+func (p *plain) all() []numbered {
+	var list []numbered
 	for n := p.first; n < p.next; n++ {
-		list = append(list, told{n, p.entries[n]})
+		list = append(list, numbered{Key: n, Value: p.entries[n]})
 	}
 	return list
 }
@@ -121,15 +118,6 @@ func taken[T comparable](slots []T) int {
 		}
 	}
 	return count
-}
-
-// gather: what is gone over.
-func gather(over iter.Seq2[int, string]) []told {
-	var list []told
-	for n, v := range over {
-		list = append(list, told{n, v})
-	}
-	return list
 }
 
 // pair is a ring, and what it should be.
@@ -161,11 +149,11 @@ func (p pair) asked(t *testing.T) {
 		p.at(t, n)
 	}
 	want := p.plain.all()
-	if got := gather(p.All()); !slices.Equal(got, want) {
+	if got := told.All(p.All()); !slices.Equal(got, want) {
 		t.Fatalf("All: %v, not %v", got, want)
 	}
 	slices.Reverse(want)
-	if got := gather(p.Back()); !slices.Equal(got, want) {
+	if got := told.All(p.Back()); !slices.Equal(got, want) {
 		t.Fatalf("Back: %v, not %v", got, want)
 	}
 	if n := taken(p.slots); n != p.Len() || len(p.slots) > p.Room() {
@@ -451,13 +439,13 @@ func TestOverLater(t *testing.T) {
 	for i := range 5 {
 		want := p.plain.all()
 		for range 2 {
-			if got := gather(all); !slices.Equal(got, want) {
+			if got := told.All(all); !slices.Equal(got, want) {
 				t.Errorf("All: %v, not %v", got, want)
 			}
 		}
 		slices.Reverse(want)
 		for range 2 {
-			if got := gather(back); !slices.Equal(got, want) {
+			if got := told.All(back); !slices.Equal(got, want) {
 				t.Errorf("Back: %v, not %v", got, want)
 			}
 		}
@@ -563,7 +551,7 @@ func TestClone(t *testing.T) {
 				a.asked(t)
 				other(a)
 				b.asked(t)
-				if got, want := gather(over), a.plain.all(); !slices.Equal(got, want) {
+				if got, want := told.All(over), a.plain.all(); !slices.Equal(got, want) {
 					t.Errorf("All of the first one: %v, not %v", got, want)
 				}
 			}
