@@ -10,7 +10,7 @@ import (
 
 // Trips and counts that are edges of something: of what is held, of int, of what goes round when it is multiplied.
 var (
-	edgeTicks  = []int{0, 1, 2, 249, 250, 251, 1 << 29, 1 << 32, 1<<60 - 1, 1 << 60, 1 << 61, 1<<61 + 1, math.MaxInt, -1, -250, -1 << 32, -1 << 60, -1 << 61, math.MinInt}
+	edgeTicks  = []int{0, 1, 2, 249, 250, 251, 1999, 2000, 2001, 15999, 16000, 16001, 1 << 29, 1 << 32, 1<<60 - 1, 1 << 60, 1 << 61, 1<<61 + 1, math.MaxInt, -1, -250, -2000, -1 << 32, -1 << 60, -1 << 61, math.MinInt}
 	edgeCounts = []int{0, 1, 2, 15, 16, 17, 255, 65535, 65536, 65537, 1 << 31, 1 << 32, 1 << 46, 1<<47 - 1, 1 << 47, 1<<47 + 1, 1 << 48, 1 << 62, math.MaxInt - 1, math.MaxInt, -1, -65536, -1 << 48, math.MinInt + 1, math.MinInt}
 )
 
@@ -58,7 +58,7 @@ func (p *plain) mark(lost bool) {
 
 // trip: what Trip should do.
 func (p *plain) trip(ticks int) {
-	t := within(new(big.Int).Mul(long(8), long(int64(ticks))), 0, 2000)
+	t := 8 * within(long(int64(ticks)), 0, 2000)
 	p.trips++
 	if p.trips == 1 {
 		p.rtt, p.off = t, t/2
@@ -259,7 +259,7 @@ func TestMarkLong(t *testing.T) {
 
 // P13.1: the first trip, at ticks of all kinds; what is marked ahead of it changes nothing of that.
 func TestTripFirst(t *testing.T) {
-	for _, ticks := range append(edgeTicks, 3, 4, 10, 100, 248, 300) {
+	for _, ticks := range append(edgeTicks, 3, 4, 10, 100, 248, 300, 1000, 1998, 2002, 3000) {
 		p := made()
 		p.trip(t, ticks)
 		p = made()
@@ -268,8 +268,8 @@ func TestTripFirst(t *testing.T) {
 		p.trip(t, ticks)
 	}
 	for _, c := range []struct{ ticks, rtt, off int }{
-		{0, 0, 0}, {1, 8, 4}, {4, 32, 16}, {249, 1992, 996}, {250, 2000, 1000}, {251, 2000, 1000},
-		{1 << 61, 2000, 1000}, {math.MaxInt, 2000, 1000}, {-1, 0, 0}, {-1 << 61, 0, 0}, {math.MinInt, 0, 0},
+		{0, 0, 0}, {1, 8, 4}, {4, 32, 16}, {249, 1992, 996}, {250, 2000, 1000}, {251, 2008, 1004}, {1999, 15992, 7996}, {2000, 16000, 8000},
+		{2001, 16000, 8000}, {1 << 40, 16000, 8000}, {1 << 61, 16000, 8000}, {math.MaxInt, 16000, 8000}, {-1, 0, 0}, {-1 << 61, 0, 0}, {math.MinInt, 0, 0},
 	} {
 		var s Stats
 		s.Trip(c.ticks)
@@ -279,11 +279,36 @@ func TestTripFirst(t *testing.T) {
 	}
 }
 
+// P13.1: it is the ticks that are held from 0 to 2000, ahead of the 8 times: a trip of so many is told as it is, first or not, and none else.
+func TestTripHeld(t *testing.T) {
+	for ticks := -50; ticks <= 2100; ticks++ {
+		is := min(max(ticks, 0), 2000)
+		var s Stats
+		if s.Trip(ticks); s.Rtt != 8*is || s.Var != 4*is {
+			t.Fatalf("Trip(%d): %+v", ticks, s)
+		}
+		next := Stats{Rtt: 8 * 2000, Trips: 1} // a tick more of the trip makes an 8th of the way one more
+		if next.Trip(ticks); next.Rtt != 7*2000+is || next.Var != 2*(2000-is) {
+			t.Fatalf("Trip(%d) behind long ones: %+v", ticks, next)
+		}
+	}
+	for _, c := range []struct{ ticks, rtt, off int }{
+		{250, 278, 504}, {251, 279, 506}, {2000, 2028, 4004}, {2001, 2028, 4004}, {math.MaxInt, 2028, 4004}, {-1, 28, 20}, {math.MinInt, 28, 20},
+	} {
+		var s Stats
+		s.Trip(4)
+		s.Trip(c.ticks)
+		if want := (Stats{Rtt: c.rtt, Var: c.off, Trips: 2}); s != want {
+			t.Errorf("Trip(4), Trip(%d): %+v, not %+v", c.ticks, s, want)
+		}
+	}
+}
+
 // P13.1: trips one behind the other; the Var goes ahead of the Rtt.
 func TestTripNext(t *testing.T) {
 	p := made()
 	for i, c := range []struct{ ticks, rtt, off int }{
-		{10, 80, 40}, {2, 72, 46}, {2, 65, 48}, {9, 65, 37}, {8, 64, 28}, {0, 56, 37}, {-5, 49, 41}, {1000, 292, 518},
+		{10, 80, 40}, {2, 72, 46}, {2, 65, 48}, {9, 65, 37}, {8, 64, 28}, {0, 56, 37}, {-5, 49, 41}, {1000, 1042, 2018}, {2001, 2911, 5253},
 	} {
 		p.trip(t, c.ticks)
 		if want := (Stats{Rtt: c.rtt, Var: c.off, Trips: i + 1}); *p.Stats != want {
@@ -292,7 +317,7 @@ func TestTripNext(t *testing.T) {
 	}
 	for a := range 40 {
 		for b := range 40 {
-			for _, c := range []int{0, 5, a, b, 250} {
+			for _, c := range []int{0, 5, a, b, 250, 2000} {
 				p := made()
 				p.trip(t, a)
 				p.trip(t, b)
@@ -327,7 +352,7 @@ func TestWait(t *testing.T) {
 		trips []int
 		want  int
 	}{
-		{nil, 50}, {[]int{0}, 2}, {[]int{-7}, 2}, {[]int{1}, 3}, {[]int{2}, 6}, {[]int{66}, 198}, {[]int{67}, 200}, {[]int{250}, 200},
+		{nil, 50}, {[]int{0}, 2}, {[]int{-7}, 2}, {[]int{1}, 3}, {[]int{2}, 6}, {[]int{66}, 198}, {[]int{67}, 200}, {[]int{250}, 200}, {[]int{2000}, 200}, {[]int{math.MaxInt}, 200},
 		{[]int{10, 2}, 32}, {[]int{10, 2, 2}, 33}, {[]int{0, 1}, 2}, {[]int{0, 2}, 3}, {[]int{0, 0, 0, 0}, 2},
 	} {
 		var s Stats
@@ -351,7 +376,7 @@ func TestWait(t *testing.T) {
 // P13.2: Score, as numbers.
 func TestScore(t *testing.T) {
 	for _, c := range []struct{ losses, trip, want int }{
-		{0, -1, 65536}, {0, 0, 65536}, {0, 1, 58254}, {0, 4, 43690}, {0, 8, 32768}, {0, 250, 2032}, {1, -1, 61441}, {1, 8, 30720}, {400, -1, 16}, {400, 250, 0},
+		{0, -1, 65536}, {0, 0, 65536}, {0, 1, 58254}, {0, 4, 43690}, {0, 8, 32768}, {0, 250, 2032}, {0, 251, 2024}, {0, 2000, 261}, {0, 2001, 261}, {1, -1, 61441}, {1, 8, 30720}, {400, -1, 16}, {400, 250, 0}, {400, 2000, 0},
 	} {
 		p := made()
 		for range c.losses {
@@ -380,8 +405,8 @@ func someStats() []pair {
 			p.Mark(by%2 == 0)
 			p.plain.mark(by%2 == 0)
 		case by%5 == 0:
-			p.Trip(by)
-			p.plain.trip(by)
+			p.Trip(by * 9)
+			p.plain.trip(by * 9)
 		default:
 			p.Trip(by % 8)
 			p.plain.trip(by % 8)
@@ -466,7 +491,7 @@ func TestMany(t *testing.T) {
 			case by < 70:
 				p.trip(t, edgeTicks[by%len(edgeTicks)])
 			case by < 80:
-				p.trip(t, by*by/20)
+				p.trip(t, by*27)
 			default:
 				p.mark(t, by%(2+i/100) == 0)
 			}
